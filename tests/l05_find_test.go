@@ -646,26 +646,32 @@ func drawnStairs(r *rand.Rand) ([]impl.Node, []int64) {
 	return nodes, names
 }
 
+// drawnCells is cells of one of the pools, some with other Bytes, and a root that is among them, or is not, or is below 0.
+func drawnCells(r *rand.Rand, pools [][]impl.Cell) ([]impl.Cell, int64) {
+	cells := cloneCells(pools[r.Intn(len(pools))])
+	if len(cells) > 0 && r.Intn(3) == 0 {
+		c := &cells[r.Intn(len(cells))]
+		c.Bytes = drawnBytes(r, 40)
+		if r.Intn(2) == 0 {
+			c.Name = impl.NameOf(c.Bytes)
+		}
+	}
+	root := r.Int63() >> r.Intn(63)
+	if len(cells) > 0 && r.Intn(3) > 0 {
+		root = cells[r.Intn(len(cells))].Name
+	}
+	if r.Intn(6) == 0 {
+		root = -root
+	}
+	return cells, root
+}
+
 // P19: whatever the arguments are, there is an answer, with one of the codes, and it is the same again.
 func TestP19FoundAnswersAlways(t *testing.T) {
 	r := rand.New(rand.NewSource(53))
 	pools := append(someCells(), badCells()...)
 	for range 4000 {
-		cells := cloneCells(pools[r.Intn(len(pools))])
-		if len(cells) > 0 && r.Intn(2) == 0 {
-			c := &cells[r.Intn(len(cells))]
-			c.Bytes = drawnBytes(r, 40)
-			if r.Intn(2) == 0 {
-				c.Name = impl.NameOf(c.Bytes)
-			}
-		}
-		root := r.Int63() >> r.Intn(63)
-		if len(cells) > 0 && r.Intn(3) > 0 {
-			root = cells[r.Intn(len(cells))].Name
-		}
-		if r.Intn(5) == 0 {
-			root = -root
-		}
+		cells, root := drawnCells(r, pools)
 		key := string(drawnBytes(r, 10))
 		if r.Intn(3) > 0 {
 			key = drawnKeyAmong(r, 16)

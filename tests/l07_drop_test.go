@@ -995,21 +995,7 @@ func TestP19DropInAnswersAlways(t *testing.T) {
 	r := rand.New(rand.NewSource(74))
 	pools := append(someCells(), badCells()...)
 	for range 3000 {
-		cells := cloneCells(pools[r.Intn(len(pools))])
-		if len(cells) > 0 && r.Intn(3) == 0 {
-			c := &cells[r.Intn(len(cells))]
-			c.Bytes = drawnBytes(r, 40)
-			if r.Intn(2) == 0 {
-				c.Name = impl.NameOf(c.Bytes)
-			}
-		}
-		root := r.Int63() >> r.Intn(63)
-		if len(cells) > 0 && r.Intn(3) > 0 {
-			root = cells[r.Intn(len(cells))].Name
-		}
-		if r.Intn(6) == 0 {
-			root = -root
-		}
+		cells, root := drawnCells(r, pools)
 		key := string(drawnBytes(r, 10))
 		if r.Intn(5) > 0 {
 			key = drawnKeyAmong(r, 16)
