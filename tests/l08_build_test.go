@@ -629,8 +629,8 @@ func TestP8ReachedTwice(t *testing.T) {
 	}
 }
 
-// P8: more ways than can be gone: forks of which all Kids are one, each below the other, up to a leaf at a key and past it.
-func TestP8ManyWays(t *testing.T) {
+// manyWays are more ways than can be gone: a leaf, and forks of which all Kids are one, each the Kid of the next.
+func manyWays() []impl.Node {
 	n := leafOf("v")
 	nodes := []impl.Node{n}
 	for range maxCells - 1 {
@@ -640,6 +640,12 @@ func TestP8ManyWays(t *testing.T) {
 		}
 		nodes, n = append(nodes, f), f
 	}
+	return nodes
+}
+
+// P8: more ways than can be gone, up to a leaf at a key and past it.
+func TestP8ManyWays(t *testing.T) {
+	nodes := manyWays()
 	cells := cellsOfNodes(nodes...)
 	for i, n := range nodes {
 		if i == 1 {
@@ -736,15 +742,20 @@ func TestP8WrongInTwoWays(t *testing.T) {
 	mustBeNoMap(t, list[10:14])
 }
 
+// drawnGaps are drawn nodes in any shape, some of which are not there, and roots to ask for.
+func drawnGaps(r *rand.Rand) ([]impl.Cell, []int64) {
+	nodes, names := drawnStairs(r)
+	nodes = slices.DeleteFunc(nodes, func(impl.Node) bool { return r.Intn(20) == 0 })
+	return cellsOfNodes(nodes...), names[:min(len(names), 24)]
+}
+
 // P8: of drawn nodes in any shape, some of which are not there, the pairs are what the document's words tell; and of what is a map TreeOf has the same pairs.
 func TestP8DrawnNodes(t *testing.T) {
 	r := rand.New(rand.NewSource(83))
 	told := map[bool]int{}
 	for range 400 {
-		nodes, names := drawnStairs(r)
-		nodes = slices.DeleteFunc(nodes, func(impl.Node) bool { return r.Intn(20) == 0 })
-		cells := cellsOfNodes(nodes...)
-		for _, root := range names[:min(len(names), 24)] {
+		cells, roots := drawnGaps(r)
+		for _, root := range roots {
 			is := mustGatherByWords(t, cells, root)
 			told[is]++
 			if list, _ := impl.PairsOf(cells, root); is {
@@ -809,14 +820,20 @@ func TestP19TreeOfAnswersAlways(t *testing.T) {
 	}
 }
 
-// P19: whatever the cells and the root are, there is an answer.
-func TestP19PairsOfAnswersAlways(t *testing.T) {
-	r := rand.New(rand.NewSource(85))
+// gatherPools are cells to draw from: those of trees, of which one has too many pairs, and others.
+func gatherPools() [][]impl.Cell {
 	pools := append(someCells(), badCells()...)
 	for _, pairs := range append(someMaps(), longestPairs(), numberedPairs(27)) {
 		nodes, _ := planted(pairs)
 		pools = append(pools, cellsOfNodes(nodes...))
 	}
+	return pools
+}
+
+// P19: whatever the cells and the root are, there is an answer.
+func TestP19PairsOfAnswersAlways(t *testing.T) {
+	r := rand.New(rand.NewSource(85))
+	pools := gatherPools()
 	for range 3000 {
 		cells, root := drawnCells(r, pools)
 		switch {
@@ -897,29 +914,37 @@ func TestP19TreeOfIsNewMemory(t *testing.T) {
 	}
 }
 
+// mustBeNewPairs fails when pairs that are answered share memory with the cells or with another answer, with their texts.
+func mustBeNewPairs(t *testing.T, cells []impl.Cell, call func(arg []impl.Cell) []impl.Pair) {
+	t.Helper()
+	arg := cloneCells(cells)
+	first, second := call(arg), call(arg)
+	want := slices.Clone(second)
+	for i := range first {
+		want[i] = impl.Pair{Key: strings.Clone(second[i].Key), Value: strings.Clone(second[i].Value)}
+	}
+	clear(first[:cap(first)])
+	if !sameCells(arg, cells) || !slices.Equal(second, want) {
+		t.Fatalf("the pairs %v share memory with the cells or with another answer", want)
+	}
+	spoilCells(arg)
+	if !slices.Equal(second, want) {
+		t.Fatalf("the pairs %v are %v once the cells are written into", want, second)
+	}
+	if third := call(cells); !slices.Equal(third, want) {
+		t.Fatalf("%v behind a spoilt answer, want %v", third, want)
+	}
+}
+
 // P19: the pairs that are answered are new memory, with their texts.
 func TestP19PairsOfIsNewMemory(t *testing.T) {
 	lists, roots := gatherCells()
 	for _, cells := range lists {
 		for _, root := range roots {
-			arg := cloneCells(cells)
-			first, _ := impl.PairsOf(arg, root)
-			second, _ := impl.PairsOf(arg, root)
-			want := slices.Clone(second)
-			for i := range first {
-				want[i] = impl.Pair{Key: strings.Clone(second[i].Key), Value: strings.Clone(second[i].Value)}
-			}
-			clear(first[:cap(first)])
-			if !sameCells(arg, cells) || !slices.Equal(second, want) {
-				t.Fatalf("the pairs %v share memory with the cells or with another answer", want)
-			}
-			spoilCells(arg)
-			if !slices.Equal(second, want) {
-				t.Fatalf("the pairs %v are %v once the cells are written into", want, second)
-			}
-			if third, _ := impl.PairsOf(cells, root); !slices.Equal(third, want) {
-				t.Fatalf("%v behind a spoilt answer, want %v", third, want)
-			}
+			mustBeNewPairs(t, cells, func(arg []impl.Cell) []impl.Pair {
+				list, _ := impl.PairsOf(arg, root)
+				return list
+			})
 		}
 	}
 }
