@@ -15,18 +15,6 @@ import (
 // mostOnTheWay is how many nodes a way has at most: each but the last one takes a number of the key.
 const mostOnTheWay = 9
 
-func sameProof(a, b [][]byte) bool {
-	return slices.EqualFunc(a, b, bytes.Equal)
-}
-
-func cloneProof(proof [][]byte) [][]byte {
-	proof = slices.Clone(proof)
-	for i := range proof {
-		proof[i] = bytes.Clone(proof[i])
-	}
-	return proof
-}
-
 // proofBy is the bytes of these nodes, in order, written out with nothing of the program.
 func proofBy(nodes ...impl.Node) [][]byte {
 	proof := [][]byte{}
@@ -70,7 +58,7 @@ func shownByWords(root int64, key string, proof [][]byte) (string, int64) {
 			there[impl.NameOf(b)] = n
 		}
 	}
-	if !impl.KeyOk(key) || root < 0 || !sameProof(proof, wayByWords(there, root, key)) {
+	if !impl.KeyOk(key) || root < 0 || !sameTexts(proof, wayByWords(there, root, key)) {
 		return "", fdBad
 	}
 	value, code := walked(there, root, key)
@@ -97,7 +85,7 @@ func mustShowNothing(t *testing.T, root int64, key string, proof [][]byte) {
 // mustAnswerProof asks ProofOf for just this answer.
 func mustAnswerProof(t *testing.T, cells []impl.Cell, root int64, key string, want [][]byte, code int64) {
 	t.Helper()
-	if proof, k := impl.ProofOf(cells, root, key); k != code || !sameProof(proof, want) {
+	if proof, k := impl.ProofOf(cells, root, key); k != code || !sameTexts(proof, want) {
 		t.Fatalf("ProofOf(%v, %d, %q) = %v, %d, want %v, %d", cells, root, key, proof, k, want, code)
 	}
 }
@@ -142,7 +130,7 @@ func keysAbout(pairs map[string]string) []string {
 
 // changed is the proof with another byte at that place of that node.
 func changed(proof [][]byte, node, place int, c byte) [][]byte {
-	bent := cloneProof(proof)
+	bent := cloneTexts(proof)
 	bent[node][place] = c
 	return bent
 }
@@ -181,7 +169,7 @@ func mustNotBend(t *testing.T, root int64, key string, proof [][]byte, list [][]
 	t.Helper()
 	count := 0
 	for _, bent := range list {
-		if !sameProof(bent, proof) {
+		if !sameTexts(bent, proof) {
 			mustShowNothing(t, root, key, bent)
 			count++
 		}
@@ -202,7 +190,7 @@ func mustShowByWords(t *testing.T, cells []impl.Cell, root int64, proof [][]byte
 	there := thereIn(cells)
 	for _, key := range keys {
 		value, code := walked(there, root, key)
-		if !impl.KeyOk(key) || code == fdLost || !sameProof(wayByWords(there, root, key), proof) {
+		if !impl.KeyOk(key) || code == fdLost || !sameTexts(wayByWords(there, root, key), proof) {
 			value, code = "", fdBad
 		}
 		mustShow(t, root, key, proof, value, code)
@@ -1113,18 +1101,18 @@ func TestP19ProofOfLeavesItsArguments(t *testing.T) {
 // mustLeaveProof fails when a call on a copy of the proof, with what lies behind it in the spare room of the list, and with spare room behind each of its slices, writes into any of it.
 func mustLeaveProof(t *testing.T, proof, behind [][]byte, call func(arg [][]byte)) {
 	t.Helper()
-	whole := cloneProof(slices.Concat(proof, behind))
+	whole := cloneTexts(slices.Concat(proof, behind))
 	for i := range whole {
 		whole[i] = slices.Concat(whole[i], spareBytes)
 	}
-	want := cloneProof(whole)
+	want := cloneTexts(whole)
 	arg := slices.Clone(whole)
 	for i, b := range arg {
 		arg[i] = b[:len(b)-len(spareBytes)]
 	}
 	before := slices.Clone(arg)
 	call(arg[:len(proof)])
-	if !sameProof(whole, want) || !sameProof(arg, before) {
+	if !sameTexts(whole, want) || !sameTexts(arg, before) {
 		t.Fatalf("the proof %v, or the room behind it, was written into: %v, then %v", proof, want, whole)
 	}
 	for i, b := range before { // there is spare room behind each of them, so each has a first byte
@@ -1167,15 +1155,6 @@ func TestP19ProvenLeavesItsArguments(t *testing.T) {
 	}
 }
 
-// spoilProof writes into all that an answer holds, the spare room included.
-func spoilProof(proof [][]byte) {
-	proof = proof[:cap(proof)]
-	for i := range proof {
-		spoil(proof[i])
-		proof[i] = spareBytes
-	}
-}
-
 // P19: the proof that is answered is new memory, each of its slices by itself, also where one node is in it more than once.
 func TestP19ProofsAreNewMemory(t *testing.T) {
 	lists, roots, keys := proofCalls()
@@ -1185,22 +1164,22 @@ func TestP19ProofsAreNewMemory(t *testing.T) {
 				arg := cloneCells(cells)
 				first, _ := impl.ProofOf(arg, root, key)
 				second, _ := impl.ProofOf(arg, root, key)
-				want := cloneProof(second)
-				spoilProof(first)
-				if !sameCells(arg, cells) || !sameProof(second, want) {
+				want := cloneTexts(second)
+				spoilTexts(first)
+				if !sameCells(arg, cells) || !sameTexts(second, want) {
 					t.Fatalf("the proof %v shares memory with the cells or with another answer", want)
 				}
 				spoilCells(arg)
-				if !sameProof(second, want) {
+				if !sameTexts(second, want) {
 					t.Fatalf("the proof %v is %v once the cells are written into", want, second)
 				}
 				for i := range second {
 					spoil(second[i])
-					if !sameProof(second[i+1:], want[i+1:]) {
+					if !sameTexts(second[i+1:], want[i+1:]) {
 						t.Fatalf("the slice %d of the proof %v shares memory with one behind it", i, want)
 					}
 				}
-				if third, _ := impl.ProofOf(cells, root, key); !sameProof(third, want) {
+				if third, _ := impl.ProofOf(cells, root, key); !sameTexts(third, want) {
 					t.Fatalf("%v behind a spoilt answer, want %v", third, want)
 				}
 			}
@@ -1214,9 +1193,9 @@ func TestP19ShownValuesAreNewMemory(t *testing.T) {
 		cells, root := treeOf(pairs)
 		for key, value := range pairs {
 			proof, _ := impl.ProofOf(cells, root, key)
-			arg := cloneProof(proof)
+			arg := cloneTexts(proof)
 			shown, _ := impl.Proven(root, key, arg)
-			spoilProof(arg)
+			spoilTexts(arg)
 			if shown != value {
 				t.Fatalf("%q is %q once the proof is written into", value, shown)
 			}

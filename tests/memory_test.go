@@ -1,6 +1,7 @@
 package tests
 
 import (
+	"bytes"
 	"slices"
 	"testing"
 )
@@ -42,5 +43,26 @@ func spoil[T byte | int64](list []T) {
 	list = list[:cap(list)]
 	for i := range list {
 		list[i] = ^list[i]
+	}
+}
+
+func sameTexts(a, b [][]byte) bool {
+	return slices.EqualFunc(a, b, bytes.Equal)
+}
+
+func cloneTexts(list [][]byte) [][]byte {
+	list = slices.Clone(list)
+	for i := range list {
+		list[i] = bytes.Clone(list[i])
+	}
+	return list
+}
+
+// spoilTexts writes into all that a list of texts holds, the spare room behind them included.
+func spoilTexts(list [][]byte) {
+	list = list[:cap(list)]
+	for i := range list {
+		spoil(list[i])
+		list[i] = bytes.Clone(spareBytes)
 	}
 }
