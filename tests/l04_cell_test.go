@@ -42,17 +42,11 @@ func sameCell(a, b impl.Cell) bool {
 	return a.Name == b.Name && bytes.Equal(a.Bytes, b.Bytes)
 }
 
-func sameCells(a, b []impl.Cell) bool {
-	return slices.EqualFunc(a, b, sameCell)
-}
+var cellLists = holding[impl.Cell]{bytes: func(c *impl.Cell) *[]byte { return &c.Bytes }, same: sameCell}
 
-func cloneCells(cells []impl.Cell) []impl.Cell {
-	cells = slices.Clone(cells)
-	for i := range cells {
-		cells[i].Bytes = bytes.Clone(cells[i].Bytes)
-	}
-	return cells
-}
+func sameCells(a, b []impl.Cell) bool          { return cellLists.alike(a, b) }
+func cloneCells(cells []impl.Cell) []impl.Cell { return cellLists.clone(cells) }
+func spoilCells(cells []impl.Cell)             { cellLists.spoil(cells) }
 
 // numberedLeaf is the leaf of that number; no two are alike.
 func numberedLeaf(i int) impl.Node {
@@ -665,23 +659,10 @@ func drawnWeb(r *rand.Rand) ([]impl.Node, []int64) {
 	return nodes, names
 }
 
-// mustLeave fails when a call on a copy of the cells, with spare room behind the list and behind each of the Bytes, writes into any of it.
+// mustLeave fails when a call writes into the cells, or into the spare room behind the list or behind each of the Bytes.
 func mustLeave(t *testing.T, cells []impl.Cell, call func(arg []impl.Cell)) {
 	t.Helper()
-	whole := append(cloneCells(cells), cellOf(leafOf("spare")), impl.Cell{Name: 5})
-	for i := range whole {
-		whole[i].Bytes = slices.Concat(whole[i].Bytes, spareBytes)
-	}
-	want := cloneCells(whole)
-	arg := slices.Clone(whole)
-	for i, c := range arg {
-		arg[i].Bytes = c.Bytes[:len(c.Bytes)-len(spareBytes)]
-	}
-	before := slices.Clone(arg)
-	call(arg[:len(cells)])
-	if !sameCells(whole, want) || !sameCells(arg, before) {
-		t.Fatalf("the cells %v, or the room behind them, were written into: %v, then %v", cells, want, whole)
-	}
+	cellLists.mustLeave(t, cells, []impl.Cell{cellOf(leafOf("spare")), {Name: 5}}, call)
 }
 
 // answersOf is what each function of the chapter answers, in a text; nothing and nil are the same there.
@@ -724,39 +705,19 @@ func TestP19CellsLeaveTheirArguments(t *testing.T) {
 	}
 }
 
-// spoilCells writes into all that an answer holds, the spare room included.
-func spoilCells(cells []impl.Cell) {
-	cells = cells[:cap(cells)]
-	for i := range cells {
-		spoil(cells[i].Bytes)
-		cells[i] = impl.Cell{Name: ^cells[i].Name}
-	}
-}
-
 // mustBeNewCells fails when an answer shares memory with the argument, with another answer, or within itself.
 func mustBeNewCells(t *testing.T, cells []impl.Cell, call func(arg []impl.Cell) []impl.Cell) {
 	t.Helper()
 	arg := cloneCells(cells)
-	first, second := call(arg), call(arg)
-	want := cloneCells(first)
-	spoilCells(first)
-	if !sameCells(arg, cells) || !sameCells(second, want) {
-		t.Fatalf("an answer of %v shares memory with the argument or with another answer", cells)
+	cellLists.mustBeNew(t, func() []impl.Cell { return call(arg) })
+	if !sameCells(arg, cells) {
+		t.Fatalf("an answer of %v shares memory with the argument", cells)
 	}
+	answer := call(arg)
+	want := cloneCells(answer)
 	spoilCells(arg)
-	if !sameCells(second, want) {
-		t.Fatalf("%v is another one once the argument is written into", want)
-	}
-	for i := range second { // within one answer: each of the Bytes by itself, with the room behind it
-		spoil(second[i].Bytes)
-		for k := i + 1; k < len(second); k++ {
-			if !sameCell(second[k], want[k]) {
-				t.Fatalf("the Bytes of the cells %d and %d of %v share memory", i, k, want)
-			}
-		}
-	}
-	if third := call(cloneCells(cells)); !sameCells(third, want) {
-		t.Fatalf("%v behind a spoilt answer, want %v", third, want)
+	if !sameCells(answer, want) {
+		t.Fatalf("%v is %v once the argument is written into", want, answer)
 	}
 }
 

@@ -1098,30 +1098,6 @@ func TestP19ProofOfLeavesItsArguments(t *testing.T) {
 	}
 }
 
-// mustLeaveProof fails when a call on a copy of the proof, with what lies behind it in the spare room of the list, and with spare room behind each of its slices, writes into any of it.
-func mustLeaveProof(t *testing.T, proof, behind [][]byte, call func(arg [][]byte)) {
-	t.Helper()
-	whole := cloneTexts(slices.Concat(proof, behind))
-	for i := range whole {
-		whole[i] = slices.Concat(whole[i], spareBytes)
-	}
-	want := cloneTexts(whole)
-	arg := slices.Clone(whole)
-	for i, b := range arg {
-		arg[i] = b[:len(b)-len(spareBytes)]
-	}
-	before := slices.Clone(arg)
-	call(arg[:len(proof)])
-	if !sameTexts(whole, want) || !sameTexts(arg, before) {
-		t.Fatalf("the proof %v, or the room behind it, was written into: %v, then %v", proof, want, whole)
-	}
-	for i, b := range before { // there is spare room behind each of them, so each has a first byte
-		if cap(arg[i]) != cap(b) || &arg[i][:1][0] != &b[:1][0] {
-			t.Fatalf("the slice %d of the proof %v is another one", i, proof)
-		}
-	}
-}
-
 // P19: the proof stays, and each of its slices, and so does the spare room behind them; no answer depends on that room, also where what is missing lies there.
 func TestP19ProvenLeavesItsArguments(t *testing.T) {
 	told := map[int64]int{}
@@ -1132,13 +1108,13 @@ func TestP19ProvenLeavesItsArguments(t *testing.T) {
 			for _, arg := range append(bentNodes(proof, cells[0].Bytes), proof) {
 				value, code := shownByWords(root, key, arg)
 				told[code]++
-				mustLeaveProof(t, arg, proof, func(arg [][]byte) { mustShow(t, root, key, arg, value, code) })
+				texts.mustLeave(t, arg, proof, func(arg [][]byte) { mustShow(t, root, key, arg, value, code) })
 			}
 			for i := range len(proof) + 1 {
 				value, code := shownByWords(root, key, proof[:i])
-				mustLeaveProof(t, proof[:i], proof[i:], func(arg [][]byte) { mustShow(t, root, key, arg, value, code) })
+				texts.mustLeave(t, proof[:i], proof[i:], func(arg [][]byte) { mustShow(t, root, key, arg, value, code) })
 			}
-			mustLeaveProof(t, proof, proof, func(arg [][]byte) {
+			texts.mustLeave(t, proof, proof, func(arg [][]byte) {
 				mustShowNothing(t, -1, key, arg)
 				mustShowNothing(t, 0, key, arg)
 				mustShowNothing(t, root, "", arg)
@@ -1162,25 +1138,18 @@ func TestP19ProofsAreNewMemory(t *testing.T) {
 		for _, root := range roots {
 			for _, key := range keys {
 				arg := cloneCells(cells)
-				first, _ := impl.ProofOf(arg, root, key)
-				second, _ := impl.ProofOf(arg, root, key)
-				want := cloneTexts(second)
-				spoilTexts(first)
-				if !sameCells(arg, cells) || !sameTexts(second, want) {
-					t.Fatalf("the proof %v shares memory with the cells or with another answer", want)
+				texts.mustBeNew(t, func() [][]byte {
+					proof, _ := impl.ProofOf(arg, root, key)
+					return proof
+				})
+				if !sameCells(arg, cells) {
+					t.Fatalf("the proof of %q shares memory with the cells %v", key, cells)
 				}
+				proof, _ := impl.ProofOf(arg, root, key)
+				want := cloneTexts(proof)
 				spoilCells(arg)
-				if !sameTexts(second, want) {
-					t.Fatalf("the proof %v is %v once the cells are written into", want, second)
-				}
-				for i := range second {
-					spoil(second[i])
-					if !sameTexts(second[i+1:], want[i+1:]) {
-						t.Fatalf("the slice %d of the proof %v shares memory with one behind it", i, want)
-					}
-				}
-				if third, _ := impl.ProofOf(cells, root, key); !sameTexts(third, want) {
-					t.Fatalf("%v behind a spoilt answer, want %v", third, want)
+				if !sameTexts(proof, want) {
+					t.Fatalf("the proof %v is %v once the cells are written into", want, proof)
 				}
 			}
 		}

@@ -502,25 +502,31 @@ func TestP11WrittenOn(t *testing.T) {
 	}
 }
 
-// drawnLog is frames that are often bent: a byte is changed, put in or left out, some are torn off or put behind.
+// bentBytes is b with a byte changed, put in or left out somewhere, with some torn off, or with more behind it.
+func bentBytes(r *rand.Rand, b, more []byte) []byte {
+	place := r.Intn(len(b) + 1)
+	switch r.Intn(5) {
+	case 0:
+		b = b[:place]
+	case 1:
+		b = append(b, more...)
+	case 2:
+		b = slices.Insert(b, place, byte(r.Intn(256)))
+	case 3:
+		b = slices.Delete(b, place, min(place+1, len(b)))
+	case 4:
+		if place < len(b) {
+			b[place] ^= 1 << r.Intn(8)
+		}
+	}
+	return b
+}
+
+// drawnLog is frames that are often bent, in one place or in two.
 func drawnLog(r *rand.Rand) []byte {
 	log := logOf(drawnBodies(r, 8)...)
 	for range max(0, r.Intn(5)-2) {
-		place := r.Intn(len(log) + 1)
-		switch r.Intn(5) {
-		case 0:
-			log = log[:place]
-		case 1:
-			log = append(log, drawnBytes(r, 20)...)
-		case 2:
-			log = slices.Insert(log, place, byte(r.Intn(256)))
-		case 3:
-			log = slices.Delete(log, place, min(place+1, len(log)))
-		case 4:
-			if place < len(log) {
-				log[place] ^= 1 << r.Intn(8)
-			}
-		}
+		log = bentBytes(r, log, drawnBytes(r, 20))
 	}
 	return log
 }
@@ -625,23 +631,18 @@ func TestP19BodiesAreNewMemory(t *testing.T) {
 	for _, b := range append(frameArgs(), bytes.Repeat(frameOf([]byte("again")), 20)) {
 		arg := slices.Concat(b, spareBytes)
 		before := bytes.Clone(arg)
-		first, n := impl.FramesIn(arg[:len(b)])
-		second, _ := impl.FramesIn(arg[:len(b)])
-		want := cloneTexts(second)
-		spoilTexts(first)
-		if !bytes.Equal(arg, before) || !sameTexts(second, want) {
-			t.Fatalf("the bodies %v share memory with the argument or with another answer", want)
+		texts.mustBeNew(t, func() [][]byte {
+			bodies, _ := impl.FramesIn(arg[:len(b)])
+			return bodies
+		})
+		if !bytes.Equal(arg, before) {
+			t.Fatalf("the bodies in %v share memory with it", b)
 		}
+		bodies, n := impl.FramesIn(arg[:len(b)])
+		want := cloneTexts(bodies)
 		spoil(arg)
-		if !sameTexts(second, want) {
-			t.Fatalf("the bodies %v are %v once the argument is written into", want, second)
-		}
-		for i := range second {
-			spoil(second[i])
-			if !sameTexts(second[:i], want[:i]) || !sameTexts(second[i+1:], want[i+1:]) {
-				t.Fatalf("the body %d of %v shares memory with another one", i, want)
-			}
-			spoil(second[i]) // and it is as it was
+		if !sameTexts(bodies, want) {
+			t.Fatalf("the bodies %v are %v once the argument is written into", want, bodies)
 		}
 		mustRead(t, b, want, int(n))
 	}
