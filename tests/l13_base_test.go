@@ -64,11 +64,11 @@ func more(names []int64, others ...int64) []int64 {
 	return risenNames(slices.Concat(names, others)...)
 }
 
-// turned is these names, the last one first.
-func turned(names []int64) []int64 {
-	names = slices.Clone(names)
-	slices.Reverse(names)
-	return names
+// turned is this list, the last one first.
+func turned[T any](list []T) []T {
+	list = slices.Clone(list)
+	slices.Reverse(list)
+	return list
 }
 
 func risenNames(names ...int64) []int64 {
