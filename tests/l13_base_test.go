@@ -1321,6 +1321,14 @@ func TestP19BasesLeaveTheirArguments(t *testing.T) {
 	})
 }
 
+// spoilBase writes into all that a Base holds, the spare room behind each of its lists included.
+func spoilBase(b impl.Base) {
+	spoilCells(b.Cells)
+	spoil(b.Pins)
+	spoil(b.Grey)
+	spoil(b.Black)
+}
+
 // mustBeApart fails when two of these lists share memory, spare room included; it writes into all of them.
 func mustBeApart(t *testing.T, lists ...[]int64) {
 	t.Helper()
@@ -1360,11 +1368,8 @@ func TestP19BasesAreNewMemory(t *testing.T) {
 		arg, changes := cloneBase(b), changeLists.clone(list)
 		got, _ := impl.ChangedAll(arg, changes)
 		want := cloneBase(got)
-		spoilCells(arg.Cells)
+		spoilBase(arg)
 		changeLists.spoil(changes)
-		spoil(arg.Pins)
-		spoil(arg.Grey)
-		spoil(arg.Black)
 		if !sameBase(got, want) {
 			t.Fatalf("%v is %v once the arguments are written into", want, got)
 		}

@@ -1130,10 +1130,7 @@ func TestP19CommitsAreNewMemory(t *testing.T) {
 			for i := range got {
 				_ = append(got[i].Bytes, spareBytes...)
 			}
-			spoilCells(arg.Cells)
-			spoil(arg.Pins)
-			spoil(arg.Grey)
-			spoil(arg.Black)
+			spoilBase(arg)
 			if !changeLists.alike(got, want) {
 				t.Fatalf("%v is %v once it is written on, and the arguments are written into", want, got)
 			}
